@@ -451,6 +451,14 @@ func TestSolve(t *testing.T) {
 	}
 }
 
+// chainOf tells the words of each two readings that stand one behind the other, and that of the first and the last one, which makes a ring of them.
+func chainOf(readings []impl.Reading) (chain []impl.Code, closing impl.Code) {
+	for i := range len(readings) - 1 {
+		chain = append(chain, wordOf(readings[i:i+2]))
+	}
+	return chain, wordOf([]impl.Reading{readings[0], readings[len(readings)-1]})
+}
+
 // TestSolveOfRingsAndChains: words of two Keys in a row tell nothing, in a ring neither; one Key known at any place tells all of them.
 func TestSolveOfRingsAndChains(t *testing.T) {
 	all := allReadings()
@@ -459,11 +467,7 @@ func TestSolveOfRingsAndChains(t *testing.T) {
 		for i := range n {
 			readings = append(readings, all[(i*7+n)*9])
 		}
-		var chain []impl.Code
-		for i := range n - 1 {
-			chain = append(chain, wordOf(readings[i:i+2]))
-		}
-		closing := wordOf([]impl.Reading{readings[0], readings[n-1]})
+		chain, closing := chainOf(readings)
 		ring := append(slices.Clone(chain), closing)
 		for _, words := range [][]impl.Code{chain, ring} {
 			isRank(t, words, n-1)
@@ -533,8 +537,8 @@ func TestSpansOfAllKeys(t *testing.T) {
 	}
 }
 
-// TestSpansOfShortLists goes through all lists of up to three words of three Keys with two Loads, of no Key, and of words that aren't right.
-func TestSpansOfShortLists(t *testing.T) {
+// shortWordLists tells all lists of up to three words of three Keys with two Loads, of no Key, and of words that aren't right.
+func shortWordLists() [][]impl.Code {
 	some := []impl.Code{{Load: noLoad}, {}, code(nil, "\x01\x00\x00\x00"), word("2.1,1.2", noLoad), word("1.2", "abc")}
 	for _, part := range partsOf([]impl.Key{key(1, 2), key(1, 10), key(2, 1)}) {
 		if len(part) > 0 {
@@ -549,7 +553,11 @@ func TestSpansOfShortLists(t *testing.T) {
 			}
 		}
 	}
-	for _, list := range lists {
+	return lists
+}
+
+func TestSpansOfShortLists(t *testing.T) {
+	for _, list := range shortWordLists() {
 		isToldOfSums(t, list)
 	}
 }
