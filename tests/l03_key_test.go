@@ -49,15 +49,15 @@ func partsOf(list []impl.Key) [][]impl.Key {
 	return parts
 }
 
-// listsOf lists every list of 0 .. most keys, each one of some.
-func listsOf(some []impl.Key, most int) [][]impl.Key {
-	all := [][]impl.Key{nil}
+// listsOf lists every list of 0 .. most things, each one of some.
+func listsOf[T any](some []T, most int) [][]T {
+	all := [][]T{nil}
 	last := all
 	for range most {
-		var longer [][]impl.Key
+		var longer [][]T
 		for _, list := range last {
-			for _, k := range some {
-				longer = append(longer, append(slices.Clone(list), k))
+			for _, x := range some {
+				longer = append(longer, append(slices.Clone(list), x))
 			}
 		}
 		all = append(all, longer...)

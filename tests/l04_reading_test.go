@@ -52,23 +52,6 @@ func partsOfReadings(list []impl.Reading) [][]impl.Reading {
 	return parts
 }
 
-// readingLists lists every list of 0 .. most readings, each one of some.
-func readingLists(some []impl.Reading, most int) [][]impl.Reading {
-	all := [][]impl.Reading{nil}
-	last := all
-	for range most {
-		var longer [][]impl.Reading
-		for _, list := range last {
-			for _, r := range some {
-				longer = append(longer, append(slices.Clone(list), r))
-			}
-		}
-		all = append(all, longer...)
-		last = longer
-	}
-	return all
-}
-
 // wrongReadingLists are lists that aren't ReadingsOk.
 func wrongReadingLists() [][]impl.Reading {
 	a, b, c := reading(1, 1, "aaaa"), reading(1, 2, "bbbb"), reading(2, 1, "cccc")
@@ -188,7 +171,7 @@ func TestReadingsOk(t *testing.T) {
 // TestReadingsOkOfShortLists goes through all lists of up to four of some readings, two of one Key among them.
 func TestReadingsOkOfShortLists(t *testing.T) {
 	some := append(slices.Clone(someReadings), reading(1, 2, "zzzz"), reading(2, 1, "abc"), reading(20, 100, "abcd"))
-	for _, list := range readingLists(some, 4) {
+	for _, list := range listsOf(some, 4) {
 		if got := impl.ReadingsOk(list); got != slowReadingsOk(list) {
 			t.Errorf("ReadingsOk(%s) = %v", shownList(list), got)
 		}
@@ -287,7 +270,7 @@ func TestLoadOfListsThatAreNotRight(t *testing.T) {
 
 func TestLoadOfShortLists(t *testing.T) {
 	some := []impl.Reading{reading(1, 1, "aaaa"), reading(1, 1, "bbbb"), reading(1, 2, "cccc"), reading(2, 1, "d"), {}}
-	for _, list := range readingLists(some, 4) {
+	for _, list := range listsOf(some, 4) {
 		for _, k := range []impl.Key{key(1, 1), key(1, 2), key(2, 1), {}, key(2, 2)} {
 			at := slices.IndexFunc(list, func(r impl.Reading) bool { return r.Key.Node == k.Node && r.Key.Seq == k.Seq })
 			if at < 0 {
