@@ -293,6 +293,16 @@ func sharesBytes(text, part string) bool {
 	return at >= start && at < start+uintptr(len(text))
 }
 
+// sharesRoom tells whether two lists lie in one array, or the room behind them does.
+func sharesRoom[T any](a, b []T) bool {
+	if cap(a) == 0 || cap(b) == 0 {
+		return false
+	}
+	size := unsafe.Sizeof(a[:1][0])
+	startA, startB := uintptr(unsafe.Pointer(unsafe.SliceData(a))), uintptr(unsafe.Pointer(unsafe.SliceData(b)))
+	return startA < startB+uintptr(cap(b))*size && startB < startA+uintptr(cap(a))*size
+}
+
 // TestTextAnswersAreNewMemory: what is done to an answer is seen neither by the argument nor by the next answer.
 func TestTextAnswersAreNewMemory(t *testing.T) {
 	text := strings.Clone("one two\nthree four")
@@ -305,8 +315,12 @@ func TestTextAnswersAreNewMemory(t *testing.T) {
 			}
 			first[i] = "changed"
 		}
-		if next := parts(text); !slices.Equal(next, kept) {
+		next := parts(text)
+		if !slices.Equal(next, kept) {
 			t.Errorf("%s: told %q, then %q", name, kept, next)
+		}
+		if sharesRoom(first, next) {
+			t.Errorf("%s tells the same memory twice", name)
 		}
 	}
 	if text != "one two\nthree four" {

@@ -563,8 +563,12 @@ func TestKeyAnswersAreNewMemory(t *testing.T) {
 		for i := range first {
 			first[i] = impl.Key{}
 		}
-		if got := tell(); len(was) == 0 || !slices.Equal(got, was) {
+		got := tell()
+		if len(was) == 0 || !slices.Equal(got, was) {
 			t.Errorf("%s tells %v once more, and told %v", what, got, was)
+		}
+		if sharesRoom(first, got) {
+			t.Errorf("%s tells the same memory twice", what)
 		}
 	}
 	if text := impl.KeyText([]impl.Key{key(1, 1)}); sharesBytes(text, impl.KeyText([]impl.Key{key(1, 1)})) {

@@ -749,6 +749,9 @@ func TestPeeledWordsAreLeftAsTheyWere(t *testing.T) {
 		isRest(t, part, left...)
 		isPeeled(t, list, told...)
 		isRest(t, list, left...)
+		if sharesRoom(first, impl.Peel(part)) || sharesRoom(rest, impl.Rest(part)) {
+			t.Errorf("the same memory is told twice: %s", shownWords(list))
+		}
 		if changed() {
 			t.Errorf("%s became %s", shownWords(list), shownWords(all))
 		}
@@ -807,6 +810,9 @@ func TestClosedListsAreLeftAsTheyWere(t *testing.T) {
 			}
 			isClosed(t, some, part, told)
 			isClosed(t, sets, list, told)
+			if sharesRoom(first, impl.Closed(some, part)) {
+				t.Errorf("Closed tells the same memory twice: %s", told)
+			}
 			if !slices.Equal(all, was) || !slices.Equal(room, wasRoom) {
 				t.Fatalf("Closed wrote into %s or %s", slowText(list), shownSets(sets))
 			}

@@ -531,6 +531,9 @@ func TestPlanAnswersAreNewMemory(t *testing.T) {
 				first[i] = step(-3, -3)
 			}
 			next := impl.Growth(n, pace)
+			if sharesRoom(other, first) || sharesRoom(first, next) || sharesRoom(other, next) {
+				t.Errorf("Growth(%d, %d) tells the same memory twice", n, pace)
+			}
 			if !slices.Equal(other, want) || !slices.Equal(next, want) {
 				t.Errorf("Growth(%d, %d) tells %v and %v, want %v", n, pace, other, next, want)
 			}
