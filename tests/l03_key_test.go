@@ -38,12 +38,12 @@ func allKeys() []impl.Key {
 	return all
 }
 
-// partsOf lists all lists of some keys of a list, in the list's order.
-func partsOf(list []impl.Key) [][]impl.Key {
-	parts := [][]impl.Key{nil}
-	for _, k := range list {
+// partsOf lists all lists of some things of a list, in the list's order.
+func partsOf[T any](list []T) [][]T {
+	parts := [][]T{nil}
+	for _, x := range list {
 		for _, part := range parts[:len(parts):len(parts)] {
-			parts = append(parts, append(slices.Clone(part), k))
+			parts = append(parts, append(slices.Clone(part), x))
 		}
 	}
 	return parts

@@ -41,17 +41,6 @@ func wrongReadings() []impl.Reading {
 	return wrong
 }
 
-// partsOfReadings lists all lists of some readings, in their order.
-func partsOfReadings(list []impl.Reading) [][]impl.Reading {
-	parts := [][]impl.Reading{nil}
-	for _, r := range list {
-		for _, part := range parts[:len(parts):len(parts)] {
-			parts = append(parts, append(slices.Clone(part), r))
-		}
-	}
-	return parts
-}
-
 // wrongReadingLists are lists that aren't ReadingsOk.
 func wrongReadingLists() [][]impl.Reading {
 	a, b, c := reading(1, 1, "aaaa"), reading(1, 2, "bbbb"), reading(2, 1, "cccc")
@@ -151,7 +140,7 @@ func TestReadingOkOfLoads(t *testing.T) {
 }
 
 func TestReadingsOk(t *testing.T) {
-	for _, list := range append(partsOfReadings(someReadings), nil, []impl.Reading{}) {
+	for _, list := range append(partsOf(someReadings), nil, []impl.Reading{}) {
 		if !impl.ReadingsOk(list) {
 			t.Errorf("ReadingsOk(%s) is false", shownList(list))
 		}
@@ -343,7 +332,7 @@ func slowLearn(list []impl.Reading, r impl.Reading) ([]impl.Reading, int) {
 func TestLearnIntoParts(t *testing.T) {
 	come := append(slices.Clone(someReadings), reading(1, 1, "zzzz"), reading(1, 2, "abce"), reading(1, 10, "\x00\x00\x00\x01"), reading(2, 1, "ABCD"), reading(10, 1, "abcd"), reading(20, 99, "abcd"),
 		reading(1, 3, "abcd"), reading(1, 99, "abcd"), reading(2, 99, "abcd"), reading(15, 7, "abcd"), reading(20, 98, "abcd"))
-	for _, part := range partsOfReadings(someReadings) {
+	for _, part := range partsOf(someReadings) {
 		for _, r := range come {
 			want, code := slowLearn(part, r)
 			isLearnt(t, part, r, want, code)
@@ -398,7 +387,7 @@ func TestLearnAll(t *testing.T) {
 
 // TestWhatIsLearnedIsThereOnce: once it was learned it is LnSame, and its Key with another Load LnOther.
 func TestWhatIsLearnedIsThereOnce(t *testing.T) {
-	for _, part := range partsOfReadings(someReadings) {
+	for _, part := range partsOf(someReadings) {
 		for _, k := range allKeys() {
 			r := impl.Reading{Key: k, Load: "\x01\x02\x03\x04"}
 			list, code := impl.Learn(part, r)
@@ -593,7 +582,7 @@ func withReadingRoom(list []impl.Reading) (part, all []impl.Reading) {
 func TestReadingListsAreLeftAsTheyWere(t *testing.T) {
 	come := append(wrongReadings(), someReadings...)
 	come = append(come, reading(1, 1, "zzzz"), reading(1, 3, "abcd"), reading(20, 98, "abcd"), reading(7, 70, "note"), reading(19, 99, "abcd"))
-	for _, list := range append(partsOfReadings(someReadings), wrongReadingLists()[:40]...) {
+	for _, list := range append(partsOf(someReadings), wrongReadingLists()[:40]...) {
 		part, all := withReadingRoom(list)
 		was := slices.Clone(all)
 		for _, r := range come {

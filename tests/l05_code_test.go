@@ -303,7 +303,7 @@ func TestCombineRefuses(t *testing.T) {
 
 // TestCombineOfParts puts the words of all parts of eight readings together.
 func TestCombineOfParts(t *testing.T) {
-	parts := partsOfReadings(eightReadings)
+	parts := partsOf(eightReadings)
 	for _, p := range parts {
 		for _, q := range parts {
 			var alone []impl.Reading
@@ -347,7 +347,7 @@ func TestWordsPutTogetherComeBack(t *testing.T) {
 // TestWhatIsPutTogetherHolds: what is put together of what holds does so, and so does what is left of it.
 func TestWhatIsPutTogetherHolds(t *testing.T) {
 	truth := eightReadings
-	parts := partsOfReadings(truth)
+	parts := partsOf(truth)
 	for i, p := range parts {
 		a := wordOf(p)
 		if len(p) > 6 {
@@ -405,7 +405,7 @@ func TestReduced(t *testing.T) {
 
 // TestReducedOfParts reduces words, whatever their Loads are, by all parts of readings.
 func TestReducedOfParts(t *testing.T) {
-	parts := partsOfReadings(eightReadings)
+	parts := partsOf(eightReadings)
 	for _, p := range parts {
 		word := wordOf(p)
 		for _, x := range []impl.Code{word, code(word.Keys, "abcd"), code(word.Keys, noLoad)} {
@@ -469,7 +469,7 @@ func TestHolds(t *testing.T) {
 	a, b, c := reading(1, 2, "\x01\x02\x04\x08"), reading(1, 10, "\x10\x20\x40\x80"), reading(2, 1, "abcd")
 	type list = []impl.Reading
 	truth := list{a, b, c}
-	for _, part := range partsOfReadings(truth) {
+	for _, part := range partsOf(truth) {
 		x := wordOf(part)
 		isHeld(t, x, truth, true)
 		isHeld(t, x, part, true)
@@ -622,7 +622,7 @@ func copied(x impl.Code) impl.Code {
 // TestWordsAreLeftAsTheyWere: no function writes into a word, a list, or the room behind them, and what is done to an answer is seen by none of them.
 func TestWordsAreLeftAsTheyWere(t *testing.T) {
 	words := append(rightWords(), wrongWords()...)
-	known := append(partsOfReadings(someReadings[:4]), wrongReadingLists()[:12]...)
+	known := append(partsOf(someReadings[:4]), wrongReadingLists()[:12]...)
 	for i, x := range words {
 		keys, all := withRoom(x.Keys)
 		was := slices.Clone(all)

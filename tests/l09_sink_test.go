@@ -249,7 +249,7 @@ func TestSinkOkOfKnown(t *testing.T) {
 		isSinkOk(t, s, false)
 		isSinkOk(t, impl.Sink{Known: known}, false)
 	}
-	for _, known := range append(partsOfReadings(someReadings), allReadings()[:1287], allReadings()[1881:]) {
+	for _, known := range append(partsOf(someReadings), allReadings()[:1287], allReadings()[1881:]) {
 		s := fullSink()
 		s.Known = known
 		isSinkOk(t, s, true)
@@ -381,7 +381,7 @@ func TestTakeOfCodesThatAreNotRight(t *testing.T) {
 // TestTakeOfWhatIsKnown: one whose Keys are all known tells whether its Load is that of what is known.
 func TestTakeOfWhatIsKnown(t *testing.T) {
 	for _, s := range []impl.Sink{{Known: eightReadings}, {Most: 12, Known: eightReadings, Wait: waitingWords(2)[1:], Same: 7, Lost: 8, Bad: 9}} {
-		for _, part := range partsOfReadings(eightReadings) {
+		for _, part := range partsOf(eightReadings) {
 			if len(part) == 0 || len(part) > 6 {
 				continue
 			}
@@ -944,7 +944,7 @@ func TestSinkText(t *testing.T) {
 		}
 	}
 	for n := range 13 {
-		for _, known := range append(partsOfReadings(someReadings), allReadings()) {
+		for _, known := range append(partsOf(someReadings), allReadings()) {
 			s := impl.Sink{Most: 12, Known: known, Wait: waitingWords(n), Same: n, Lost: n * n, Bad: 12 - n}
 			if got := impl.SinkText(s); got != slowSinkText(s) {
 				t.Errorf("SinkText(%s) = %q, want %q", shownSink(s), got, slowSinkText(s))
